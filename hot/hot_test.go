@@ -719,6 +719,39 @@ func TestClonesGrow(t *testing.T) {
 	}
 }
 
+// Era goes on while a log and its clones grow, and ends with each Cut that isn't refused.
+func TestEra(t *testing.T) {
+	l := of(t, chain(4)...)
+	was := l.Era()
+	if was == (hot.Era{}) || was == hot.New(group).Era() || was == of(t, chain(4)...).Era() {
+		t.Error("one of another log, or none")
+	}
+	added(t, l, rec(9, 4, 1))
+	adds(t, "the same", l, rec(9, 4, 1), false, nil)
+	adds(t, "another one", l, rec(9, 4, 2), false, api.ErrThere)
+	c := l.Clone()
+	added(t, c, rec(10, 9, 1))
+	if _, err := l.Cut(cut(2, 9, 9)); err == nil || l.Era() != was || c.Era() != was || c.Clone().Era() != was {
+		t.Error("it ended without a Cut:", err)
+	}
+	seen := []hot.Era{was}
+	for _, x := range []struct {
+		gone  int
+		spans []api.Span
+	}{{0, nil}, {0, nil}, {1, []api.Span{cut(2, 8, 9)}}, {0, []api.Span{cut(2, 8, 9)}}, {0, nil}} {
+		cutBy(t, l, x.gone, x.spans...)
+		if slices.Contains(seen, l.Era()) || l.Era() != l.Clone().Era() || c.Era() != was {
+			t.Error("behind a Cut:", x)
+		}
+		seen = append(seen, l.Era())
+	}
+	cutBy(t, c, 0)
+	if slices.Contains(seen, c.Era()) {
+		t.Error("a clone's Cut is its own")
+	}
+	checkSame(t, "the Era is no part of it", hot.New(group), hot.New(group), true)
+}
+
 // roomy is b with room behind its length that holds what would count, and that memory whole.
 func roomy(b []byte) (short, whole []byte) {
 	whole = append(bytes.Clone(b), "more"...)
