@@ -13,6 +13,7 @@ import (
 	"sextet/api"
 	"sextet/page"
 	"sextet/redo"
+	"sextet/wire"
 )
 
 // The numbers that the chapter names and package api doesn't.
@@ -1008,6 +1009,25 @@ func TestReadSharesNothing(t *testing.T) {
 	for k := range b {
 		if _, _, err := page.Read(b[:k]); !errors.Is(err, api.ErrEnd) {
 			t.Errorf("cut at %d: %v", k, err)
+		}
+	}
+}
+
+// P4.4: Fields goes on where a reader is, and its errors are that reader's.
+func TestFields(t *testing.T) {
+	for _, p := range right() {
+		b := append(joined(parts(p)), 7)
+		in := wire.NewReader(append([]byte{4, 6}, b...))
+		in.Num(2, 2)
+		in.Num(3, 3)
+		if got := page.Fields(in); text(got) != text(p) || in.Err() != nil || in.At() != 1+len(b) || in.Left() != 1 {
+			t.Errorf("%s: %s, %v, at %d", text(p), text(got), in.Err(), in.At())
+		}
+		in = wire.NewReader(b[:len(b)-2])
+		page.Fields(in)
+		l := parts(p)
+		if at, is := in.Err().(*api.At); !is || at.Err != api.ErrEnd || at.Pos != startOf(l, len(l)-1) {
+			t.Errorf("%s, cut: %v", text(p), in.Err())
 		}
 	}
 }

@@ -10,6 +10,7 @@ import (
 
 	"sextet/api"
 	"sextet/redo"
+	"sextet/wire"
 )
 
 const maxSlot = 1 << 15
@@ -755,6 +756,26 @@ func TestOfSharesNothing(t *testing.T) {
 	for i, r := range mixed() {
 		if !equal(l[i], r) {
 			t.Errorf("what was handed in: %v was %v", l[i], r)
+		}
+	}
+}
+
+// P3.2: Fields goes on where a reader is, is not Valid's, and its errors are that reader's.
+func TestFields(t *testing.T) {
+	wrong := some()
+	wrong.Back = wrong.LSN
+	for _, r := range append(right(), wrong) {
+		b := append(joined(parts(r)), 7)
+		in := wire.NewReader(append([]byte{4, 6}, b...))
+		in.Num(2, 2)
+		in.Num(3, 3)
+		if got := redo.Fields(in); !equal(got, r) || in.Err() != nil || in.At() != 1+len(b) || in.Left() != 1 {
+			t.Errorf("%v: %v, %v, at %d", r, got, in.Err(), in.At())
+		}
+		in = wire.NewReader(b[:len(b)-2])
+		redo.Fields(in)
+		if at, is := in.Err().(*api.At); !is || at.Err != api.ErrEnd || at.Pos != starts(parts(r))[9] {
+			t.Errorf("%v, cut: %v", r, in.Err())
 		}
 	}
 }

@@ -13,6 +13,7 @@ import (
 
 	"sextet/api"
 	"sextet/span"
+	"sextet/wire"
 )
 
 // most64 is the greatest number of 64 bits.
@@ -709,5 +710,24 @@ func TestReadSharesNothing(t *testing.T) {
 				t.Errorf("%v cut at %d: %v", l, k, err)
 			}
 		}
+	}
+}
+
+// P8.3: Fields goes on where a reader is, is not Valid's, and its errors are that reader's.
+func TestFields(t *testing.T) {
+	for _, l := range append(right(), []api.Span{of(2, 9, 9), of(2, 5, 4)}) {
+		p := parts(l)
+		b := append(joined(p), 7)
+		in := wire.NewReader(append([]byte{4, 6}, b...))
+		in.Num(2, 2)
+		in.Num(3, 3)
+		got := span.Fields(in)
+		checkThat(t, "Fields", got, l)
+		if in.Err() != nil || in.At() != 1+len(b) || in.Left() != 1 {
+			t.Errorf("%v: %v, at %d", l, in.Err(), in.At())
+		}
+		in = wire.NewReader(b[:len(b)-2])
+		span.Fields(in)
+		checkErr(t, "cut", in.Err(), startOf(p, len(p)-1), api.ErrEnd)
 	}
 }
